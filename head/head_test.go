@@ -956,14 +956,46 @@ func TestOnlyWhatIsNamedIsGone(t *testing.T) {
 	}
 }
 
+// P4.1: the marks say of each byte what the function says, and both what the document says.
+func TestMarks(t *testing.T) {
+	for b := range 256 {
+		want := strings.IndexByte(nameBytes, byte(b)) >= 0
+		if marked, fits := Marked(byte(b)), fitsName(byte(b)); marked != fits || fits != want {
+			t.Errorf("byte %x: marked %t, fits %t, not %t", b, marked, fits, want)
+		}
+	}
+}
+
+// P4.1 to P4.3: what is a name does not hang on the marks.
+func TestNamesWithoutMarks(t *testing.T) {
+	marking.Do(mark)
+	kept := inName
+	defer func() { inName = kept }()
+	for _, marks := range []bool{false, true} {
+		for b := range inName {
+			inName[b] = marks
+		}
+		for _, c := range names() {
+			if Alike(c.in, c.in) != c.is || (Check(list(c.in, "v")) == api.OK) != c.is {
+				t.Errorf("%q is a name: not %t, with all marks %t", c.in, c.is, marks)
+			}
+		}
+	}
+}
+
 // P4.1: whoever asks first, several at a time.
 func TestSeveralAtATime(t *testing.T) {
+	// Earlier tests have asked: as if nobody had.
+	marking, inName = sync.Once{}, [256]bool{}
 	var all sync.WaitGroup
 	for i := range 8 {
 		all.Go(func() {
 			for _, h := range many(16) {
 				if !Alike(h.Name, strings.ToUpper(h.Name)) || Alike(h.Name, h.Name+" ") {
 					t.Error(i, h.Name)
+				}
+				if !Marked(h.Name[0]) || Marked(' ') {
+					t.Error(i, "marks")
 				}
 			}
 		})
